@@ -470,7 +470,8 @@ func TestP14_6UsedAboveRoom(t *testing.T) {
 	}
 }
 
-// Every row of up to four acts on two names, from an empty disk and from one on which much is not sure, behind each failure.
+// Every row of up to four of these acts from an empty disk, and of up to three from one on which much is not sure; behind each,
+// every failure.
 func TestP14_1To6EveryRow(t *testing.T) {
 	acts := []act{
 		create("a"), create("b"), appends("a", "xy"), writes("a", 1, "z"), cut("a", 1), rename("a", "b"), rename("b", "a"), rename("a", "a"),
