@@ -1067,7 +1067,7 @@ func opensAs(t *testing.T, f *simfs.FS, cuts []int, some ...*saidPager) *both {
 // Wherever the power fails in a commit, and whatever is kept, to the byte.
 func TestP17_6WhereverThePowerFails(t *testing.T) {
 	var sizes []int
-	for n := range pageBytes + 1 {
+	for n := range 2*pageBytes + 1 { // the gap has two pages
 		sizes = append(sizes, n)
 	}
 	if testing.Short() {
